@@ -1,0 +1,166 @@
+"""Cartoons, sheets and rows made by chance from a seeded source: right ones, and ones that are wrong in some way."""
+
+from build import in_order, pack, put
+from reference import Strips, cross, on, parted
+
+
+def chance_points(source, width, height):
+    points = {(0, 0), (width, 0), (0, height), (width, height)}
+    for _ in range(source.randrange(4)):
+        points.add(source.choice([(0, source.randrange(height)), (width, source.randrange(height)),
+                                  (source.randrange(width), 0), (source.randrange(width), height)]))
+    for _ in range(source.randrange(6)):
+        points.add((source.randrange(1, width), source.randrange(1, height)))
+    return in_order(points)
+
+
+def frame_lines(points, width, height):
+    lines = set()
+    for axis, value in ((0, 0), (0, width), (1, 0), (1, height)):
+        edge = [k for k, point in enumerate(points) if point[axis] == value]
+        lines |= set(zip(edge, edge[1:]))
+    return lines
+
+
+def chance_lines(source, points, width, height):
+    """The frame's lines, and as many more as go in; then some of those are left out."""
+    lines = frame_lines(points, width, height)
+    more = [(k, m) for m in range(len(points)) for k in range(m) if (k, m) not in lines]
+    source.shuffle(more)
+    added = []
+    for line in more:
+        p, q = [points[k] for k in line]
+        clean = not any(on(r, p, q) for r in points if r not in (p, q))
+        clean = clean and not any(cross((p, q), (points[k], points[m])) for k, m in lines)
+        if clean or source.randrange(300) == 0:
+            lines.add(line)
+            added.append(line)
+    for line in source.sample(added, source.randrange(len(added) + 1)):
+        kept = lines - {line}
+        if source.randrange(6) == 0 or hangs_together(points, kept):
+            lines = kept
+    if source.randrange(40) == 0:
+        lines -= {source.choice(sorted(lines))}
+    return sorted(lines)
+
+
+def hangs_together(points, lines):
+    """Whether rules 8 to 10 hold."""
+    everyone = range(len(points))
+    for k in everyone:
+        others = [other for other in everyone if other != k]
+        if len(set(parted(others, [line for line in lines if k not in line]).values())) > 1:
+            return False
+    return all(sum(k in line for line in lines) >= 2 for k in everyone)
+
+
+def chance_marks(source, points, lines, width, height):
+    """A mark in each pane that has room for one, as far as the lines tell panes apart."""
+    segments = [(points[k], points[m]) for k, m in lines]
+    strips = Strips(segments)
+    places = [(x, y) for x in range(1, width) for y in range(1, height)]
+    source.shuffle(places)
+    marks = {}
+    for x, y in places:
+        if any(on((x, y), p, q) for p, q in segments):
+            continue
+        try:
+            marks.setdefault(strips.pane_at(x, y), (x, y, source.randrange(3), source.randrange(3)))
+        except ValueError:
+            pass
+    return in_order(marks.values()) or [(5, 5, 1, 1)]
+
+
+def spoil(source, width, height, points, lines, marks):
+    """One thing put wrong, or at least otherwise."""
+    many = source.randrange(7)
+    if many == 0 and len(marks) > 1:
+        marks.pop(source.randrange(len(marks)))
+    if many == 1:
+        marks.append((source.randrange(width + 2), source.randrange(height + 2), 1, 1))
+        marks[:] = in_order(marks)
+    if many == 2:
+        marks.append(source.choice(marks))
+        source.shuffle(marks)
+    if many == 3:
+        lines.append((source.randrange(len(points)), source.randrange(len(points) + 1)))
+        lines.sort()
+    if many == 4:
+        k = source.randrange(len(points))
+        points[k] = (source.randrange(width + 2), source.randrange(height + 2))
+    if many == 5 and len(lines) > 4:
+        lines.pop(source.randrange(len(lines)))
+    if many == 6:
+        points[:] = in_order(points + [(source.randrange(width + 1), source.randrange(height + 1))])
+
+
+def chance_cartoon(source):
+    width, height = source.randrange(16, 24), source.randrange(16, 24)
+    points = chance_points(source, width, height)
+    lines = chance_lines(source, points, width, height)
+    marks = chance_marks(source, points, lines, width, height)
+    if source.randrange(2) == 0:
+        spoil(source, width, height, points, lines, marks)
+    data = pack(width, height, points, lines, marks)
+    if source.randrange(8) == 0:
+        data = put(data, source.randrange(len(data)), 1, source.randrange(256))
+    if source.randrange(40) == 0:
+        data = data[:source.randrange(len(data))]
+    return data
+
+
+def chance_sheets(source, panes, margin):
+    sheets = []
+    for _ in range(source.randrange(1, 4)):
+        glass = source.choice(panes)[0] if source.randrange(20) else 9
+        sheets += [glass, source.randrange(20, 90), source.randrange(20, 90), source.randrange(2)]
+    return sheets
+
+
+def chance_row(source, panes, margin, sheets):
+    """A row that is often right as far as it goes: cuts within pieces, each pane once, where it goes."""
+    waiting = list(range(len(panes)))
+    source.shuffle(waiting)
+    row = []
+    for k in range(0, len(sheets), 4):
+        row += chance_node(source, panes, margin, sheets[k:k + 4], sheets[k + 1], sheets[k + 2], waiting, 0)
+    if row and source.randrange(3) == 0:
+        k = source.randrange(len(row))
+        row[k] = source.choice([0, 1, 2, 3, 4, row[k] + 1, 4294967295])
+    if row and source.randrange(6) == 0:
+        row = row[:source.randrange(len(row))]
+    if source.randrange(12) == 0:
+        row.append(source.randrange(5))
+    return row
+
+
+def chance_node(source, panes, margin, sheet, width, height, waiting, depth):
+    for pane in list(waiting):
+        glass, wide, high = panes[pane][0], panes[pane][1] + 2 * margin, panes[pane][2] + 2 * margin
+        if glass != sheet[0]:
+            continue
+        for turned, (across, up) in ((0, (wide, high)), (1, (high, wide))):
+            if turned <= sheet[3] and across <= width and up <= height:
+                waiting.remove(pane)
+                return trimmed(source, panes, margin, sheet, width, height, waiting, (across, up), [1, pane, turned])
+    if depth < 3 and source.randrange(3) == 0 and min(width, height) > 1:
+        kind = source.randrange(2, 4)
+        cut = source.randrange(1, width if kind == 2 else height)
+        first = (cut, height) if kind == 2 else (width, cut)
+        second = (width - cut, height) if kind == 2 else (width, height - cut)
+        nodes = [chance_node(source, panes, margin, sheet, wide, high, waiting, depth + 1)
+                 for wide, high in (first, second)]
+        return [kind, cut] + nodes[0] + nodes[1]
+    return [0]
+
+
+def trimmed(source, panes, margin, sheet, width, height, waiting, blank, node):
+    """The blank's node with cuts around it, and nodes for what is left beside and above it."""
+    if blank[0] < width:
+        beside = chance_node(source, panes, margin, sheet, width - blank[0], height, waiting, 0)
+        above = trimmed(source, panes, margin, sheet, blank[0], height, waiting, blank, node)
+        return [2, blank[0]] + above + beside
+    if blank[1] < height:
+        above = chance_node(source, panes, margin, sheet, width, height - blank[1], waiting, 0)
+        return [3, blank[1]] + node + above
+    return node

@@ -1,0 +1,90 @@
+"""What all calls keep to: what is handed in stays as it was, nothing is kept, whole numbers are given back."""
+
+import unittest
+
+from build import RUN_ROW, RUN_SHEETS, frame_cartoon, put, run_cartoon
+from glasssheets import layouts
+
+
+class Untouchable(list):
+    """A list that can't be changed, not for a while either."""
+
+    def refuse(self, *args, **kwargs):
+        raise AssertionError("what was handed in was changed")
+
+    append = clear = extend = insert = pop = remove = reverse = sort = refuse
+    __setitem__ = __delitem__ = __iadd__ = __imul__ = refuse
+
+
+BLANK_CALLS = [
+    (1, 0, run_cartoon()),
+    (1, 3, run_cartoon()),
+    (65536, 0, run_cartoon()),
+    (0, 0, run_cartoon()[:-1]),
+    (0, 0, put(run_cartoon(), 20, 4, 31)),
+    (0, 0, []),
+]
+JUDGE_CALLS = [
+    (1, run_cartoon(), RUN_SHEETS, RUN_ROW),
+    (1, run_cartoon(), RUN_SHEETS, RUN_ROW[:-1]),
+    (1, run_cartoon(), RUN_SHEETS, RUN_ROW + [0]),
+    (2, run_cartoon(), RUN_SHEETS, RUN_ROW),
+    (1, run_cartoon(), RUN_SHEETS[:-1] + [2], RUN_ROW),
+    (1, run_cartoon(), RUN_SHEETS * 400, RUN_ROW),
+    (1, run_cartoon(), [], []),
+    (0, frame_cartoon(), [3, 20, 16, 0], [1, 0, 0]),
+    (0, [], [], []),
+]
+
+
+def copied(handed):
+    return tuple(list(one) if isinstance(one, list) else one for one in handed)
+
+
+def untouchable(handed):
+    return tuple(Untouchable(one) if isinstance(one, list) else one for one in handed)
+
+
+class Calls(unittest.TestCase):
+    def each(self):
+        for handed in BLANK_CALLS:
+            yield layouts.blank, handed
+        for handed in JUDGE_CALLS:
+            yield layouts.judge, handed
+
+    def test_what_is_handed_in_stays(self):
+        for call, handed in self.each():
+            before = copied(handed)
+            call(*handed)
+            self.assertEqual(handed, before)
+
+    def test_what_is_handed_in_is_not_changed_for_a_while(self):
+        for call, handed in self.each():
+            self.assertEqual(call(*untouchable(handed)), call(*handed))
+
+    def test_the_same_again(self):
+        first = [call(*handed) for call, handed in self.each()]
+        again = [call(*handed) for call, handed in reversed(list(self.each()))]
+        self.assertEqual(first, again[::-1])
+
+    def test_what_is_given_back_is_the_caller_s(self):
+        for call, handed in self.each():
+            told = call(*handed)
+            kept = list(told)
+            told.append(99)
+            told[0] = 98
+            self.assertEqual(call(*handed), kept)
+
+    def test_lists_of_whole_numbers(self):
+        for call, handed in self.each():
+            told = call(*handed)
+            self.assertIs(type(told), list)
+            self.assertEqual({type(number) for number in told}, {int})
+
+    def test_arguments_by_name(self):
+        self.assertEqual(layouts.blank(margin=1, i=0, cartoon=run_cartoon()), [0, 32, 12])
+        self.assertEqual(layouts.judge(margin=1, cartoon=run_cartoon(), sheets=RUN_SHEETS, row=RUN_ROW), [0])
+
+
+if __name__ == "__main__":
+    unittest.main()

@@ -1,0 +1,125 @@
+"""Large cartoons and deep rows: answers in reasonable time, with no call nested deep."""
+
+import sys
+import time
+import unittest
+
+from build import frame_cartoon, grid_cartoon, pack, pack_places
+from glasssheets.layouts import blank, judge
+
+SECONDS = 5
+CALLS = 30
+
+
+def depth():
+    frame = sys._getframe()
+    many = 0
+    while frame is not None:
+        many += 1
+        frame = frame.f_back
+    return many
+
+
+class LargeTest(unittest.TestCase):
+    def soon(self, call, *handed):
+        """What the call answers, with little time and few calls within one another allowed."""
+        limit = sys.getrecursionlimit()
+        start = time.perf_counter()
+        sys.setrecursionlimit(depth() + CALLS)
+        try:
+            told = call(*handed)
+        finally:
+            sys.setrecursionlimit(limit)
+        self.assertLess(time.perf_counter() - start, SECONDS)
+        return told
+
+
+class LargeCartoons(LargeTest):
+    def test_grid_of_200_points_and_150_marks(self):
+        data = grid_cartoon(15, 10, 24)
+        self.assertEqual(data[12:18], [200, 0, 349 - 256, 1, 150, 0])
+        self.assertEqual(self.soon(blank, 1, 149, data), [0, 12, 12])
+        self.assertEqual(self.soon(blank, 1, 150, data), [-2])
+
+    def test_grid_laid_out_with_900_numbers(self):
+        data = grid_cartoon(15, 10, 24)
+        # A strip of blanks, cut one by one; 50 of the cuts have something left over beside them.
+        row = []
+        for pane in range(150):
+            row += [2, 10, 1, pane, 0] if pane < 149 else [1, pane, 0]
+            if pane < 50:
+                row += [2, 1, 0]
+        row += [0, 0]
+        self.assertEqual(len(row), 900)
+        sheets = [1, 10 * 150 + 50, 10, 0] + [9, 1, 1, 0] * 2
+        self.assertEqual(self.soon(judge, 0, data, sheets, row), [0])
+        self.assertEqual(self.soon(judge, 0, data, [1, 10 * 150 + 49] + sheets[2:], row), [0, 6, 896])
+        self.assertEqual(self.soon(judge, 1, data, sheets, row), [0, 6, 3])
+
+    def test_grid_without_one_mark(self):
+        data = grid_cartoon(15, 10, 24)
+        data = data[:16] + [149] + data[17:-12]
+        self.assertEqual(self.soon(blank, 0, 0, data), [-5, 13, len(data)])
+
+    def test_one_long_ring(self):
+        # The graph is one ring of 200 points: the longest ways, and the most corners, that there are.
+        points = [(0, y) for y in range(0, 100)] + [(40, y) for y in range(0, 100)]
+        left, right = points[:100], points[100:]
+        segments = list(zip(left, left[1:])) + list(zip(right, right[1:]))
+        segments += [((0, 0), (40, 0)), ((0, 99), (40, 99))]
+        data = pack_places(40, 99, points, segments, [(20, 50)])
+        self.assertEqual(self.soon(blank, 5, 0, data), [0, 50, 109])
+
+    def test_fan_with_as_many_lines_as_go_in(self):
+        # All points on the left edge are joined with one on the right.
+        left = [(0, y) for y in range(0, 198)]
+        hub, top = (300, 0), (300, 197)
+        segments = list(zip(left, left[1:])) + [(hub, top), (left[-1], top)] + [(hub, point) for point in left]
+        data = pack_places(300, 197, left + [hub, top], segments, [(299, 150)])
+        self.assertEqual(self.soon(blank, 0, 0, data), [-5, 13, len(data)])
+
+    def test_8192_lines(self):
+        points = [(x, 0) for x in range(0, 100)] + [(2 * x, 99) for x in range(49)] + [(99, 99)]
+        lines = [(k, m) for k in range(150) for m in range(k + 1, 150)][:8192]
+        frame = {(k, k + 1) for k in range(99)} | {(k, k + 1) for k in range(100, 149)} | {(0, 100), (99, 149)}
+        lines = sorted(set(lines[:8192 - len(frame)]) | frame)
+        data = pack(99, 99, points, lines, [(50, 50)])
+        self.assertEqual(self.soon(blank, 0, 0, data), [-5, 7, 20 + 8 * 150 + 4])
+
+
+class DeepRows(LargeTest):
+    def test_parts_to_the_left(self):
+        row = []
+        for cut in range(999, 999 - 299, -1):
+            row += [2, cut]
+        row += [1, 0, 0] + [0] * 299
+        self.assertEqual(len(row), 900)
+        self.assertEqual(self.soon(judge, 0, frame_cartoon(), [3, 1000, 50, 0], row), [0])
+        self.assertEqual(self.soon(judge, 0, frame_cartoon(), [3, 999, 50, 0], row), [0, 2, 1])
+        self.assertEqual(self.soon(judge, 0, frame_cartoon(), [3, 1000, 50, 0], row[:-1]), [0, 1, 899])
+
+    def test_parts_above(self):
+        row = [3, 1, 0] * 299 + [1, 0, 0]
+        self.assertEqual(len(row), 900)
+        self.assertEqual(self.soon(judge, 0, frame_cartoon(), [3, 50, 299 + 16, 0], row), [0])
+        self.assertEqual(self.soon(judge, 0, frame_cartoon(), [3, 50, 299 + 15, 0], row), [0, 6, 898])
+        self.assertEqual(self.soon(judge, 0, frame_cartoon(), [3, 50, 298, 0], row), [0, 2, 3 * 297 + 1])
+
+    def test_cuts_alone(self):
+        row = []
+        for cut in range(999, 999 - 450, -1):
+            row += [3, cut]
+        self.assertEqual(len(row), 900)
+        self.assertEqual(self.soon(judge, 0, frame_cartoon(), [3, 50, 1000, 0], row), [0, 1, 900])
+
+    def test_upright_and_level_in_turn(self):
+        row = []
+        for k in range(149):
+            row += [2, 999 - k, 3, 999 - k]
+        row += [1, 0, 1] + [0] * 298
+        self.assertEqual(len(row), 897)
+        self.assertEqual(self.soon(judge, 0, frame_cartoon(), [3, 1000, 1000, 1], row), [0])
+
+
+if __name__ == "__main__":
+    unittest.main()

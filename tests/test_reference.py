@@ -1,0 +1,85 @@
+"""The program beside a second reading of the document, over many inputs made by chance from fixed seeds."""
+
+import random
+import unittest
+
+from build import RUN_ROW, RUN_SHEETS, grid_cartoon, row_cartoon, run_cartoon
+from chance import chance_cartoon, chance_row, chance_sheets
+from glasssheets.layouts import blank, judge
+from reference import judge_bytes, judge_layout, lay
+
+
+def right_cartoons(source, many):
+    cartoons = [run_cartoon(), row_cartoon([0, 1, 0]), row_cartoon([2]), grid_cartoon(2, 2, 0)]
+    while len(cartoons) < many:
+        data = chance_cartoon(source)
+        if judge_bytes(data)[0] == 0:
+            cartoons.append(data)
+    return cartoons
+
+
+class CartoonsByChance(unittest.TestCase):
+    def test_cartoons(self):
+        source = random.Random(20)
+        rules = set()
+        for _ in range(600):
+            data = chance_cartoon(source)
+            rule, place, panes = judge_bytes(data)
+            rules.add(rule)
+            with self.subTest(data=data):
+                if rule:
+                    self.assertEqual(blank(0, 0, data), [-5, rule, place])
+                    continue
+                margin = source.randrange(4)
+                for i, (glass, width, height) in enumerate(panes):
+                    self.assertEqual(blank(margin, i, data), [0, width + 2 * margin, height + 2 * margin])
+                self.assertEqual(blank(margin, len(panes), data), [-2])
+        # Chance must have come by right cartoons and by the rules that are hard to break by hand.
+        self.assertLessEqual({0, 4, 5, 6, 7, 8, 10, 11, 12, 13}, rules)
+
+
+class RowsByChance(unittest.TestCase):
+    def test_rows(self):
+        source = random.Random(21)
+        rules = {}
+        for data in right_cartoons(source, 12):
+            panes = judge_bytes(data)[2]
+            for _ in range(60):
+                margin = source.randrange(3)
+                sheets = chance_sheets(source, panes, margin)
+                row = chance_row(source, panes, margin, sheets)
+                due = judge_layout(panes, margin, sheets, row)
+                rules[tuple(due[:2])] = True
+                with self.subTest(data=data, margin=margin, sheets=sheets, row=row):
+                    self.assertEqual(judge(margin, data, sheets, row), due)
+        self.assertEqual(sorted(rules), [(0,), (0, 1), (0, 2), (0, 3), (0, 4), (0, 5), (0, 6), (0, 7)])
+
+
+class LaidByRule(unittest.TestCase):
+    def test_reference_lays_the_run(self):
+        panes = judge_bytes(run_cartoon())[2]
+        self.assertEqual(lay(panes, 1, RUN_SHEETS), RUN_ROW)
+
+    def test_what_is_laid_is_right_and_stays_so_with_a_smaller_margin(self):
+        source = random.Random(22)
+        laid = 0
+        for data in right_cartoons(source, 14):
+            panes = judge_bytes(data)[2]
+            for _ in range(20):
+                margin = source.randrange(1, 4)
+                sheets = []
+                for glass in sorted(set(pane[0] for pane in panes)):
+                    for _ in range(2):
+                        sheets += [glass, source.randrange(20, 90), source.randrange(20, 90), source.randrange(2)]
+                row = lay(panes, margin, sheets)
+                if row is None:
+                    continue
+                laid += 1
+                with self.subTest(data=data, margin=margin, sheets=sheets, row=row):
+                    self.assertEqual(judge(margin, data, sheets, row), [0])
+                    self.assertEqual(judge(margin - 1, data, sheets, row), [0])
+        self.assertGreater(laid, 50)
+
+
+if __name__ == "__main__":
+    unittest.main()

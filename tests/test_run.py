@@ -1,0 +1,44 @@
+"""The document's run, to the number."""
+
+import unittest
+
+from build import RUN_ROW, RUN_SHEETS, run_cartoon
+from glasssheets.layouts import blank, judge
+
+
+class Run(unittest.TestCase):
+    def test_cartoon_has_the_bytes_told(self):
+        data = run_cartoon()
+        self.assertEqual(data[:20], [0x47, 0x4C, 0x41, 0x31, 30, 0, 0, 0, 20, 0, 0, 0, 5, 0, 7, 0, 3, 0, 0, 0])
+        self.assertEqual(data[36:44], [10, 0, 0, 0, 10, 0, 0, 0])
+        self.assertEqual(data[60:64], [0, 0, 1, 0])
+        self.assertEqual(data[88:100], [15, 0, 0, 0, 2, 0, 0, 0, 5, 0, 0, 0])
+        self.assertEqual(len(data), 20 + 8 * 5 + 4 * 7 + 12 * 3)
+
+    def test_blanks(self):
+        data = run_cartoon()
+        self.assertEqual(blank(1, 0, data), [0, 32, 12])
+        self.assertEqual(blank(1, 1, data), [0, 12, 22])
+        self.assertEqual(blank(1, 2, data), [0, 32, 22])
+
+    def test_blanks_without_margin(self):
+        data = run_cartoon()
+        self.assertEqual([blank(0, i, data) for i in range(3)], [[0, 30, 10], [0, 10, 20], [0, 30, 20]])
+
+    def test_layout_is_right(self):
+        self.assertEqual(len(RUN_ROW), 18)
+        self.assertEqual(judge(1, run_cartoon(), RUN_SHEETS, RUN_ROW), [0])
+
+    def test_layout_stays_right_with_a_smaller_margin(self):
+        self.assertEqual(judge(0, run_cartoon(), RUN_SHEETS, RUN_ROW), [0])
+
+    def test_layout_is_not_right_with_a_greater_margin(self):
+        self.assertEqual(judge(2, run_cartoon(), RUN_SHEETS, RUN_ROW), [0, 6, 5])
+
+    def test_sheet_1_not_turning(self):
+        sheets = RUN_SHEETS[:7] + [0] + RUN_SHEETS[8:]
+        self.assertEqual(judge(1, run_cartoon(), sheets, RUN_ROW), [0, 5, 13])
+
+
+if __name__ == "__main__":
+    unittest.main()
