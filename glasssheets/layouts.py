@@ -1,8 +1,9 @@
 """The calls. Each gives back a list: a refusal's numbers, the first below 0, or 0 and the answer behind it."""
 
 from glasssheets.cartoons import read_cartoon
-from glasssheets.rows import judge_row
+from glasssheets.rows import cuts_of, read_row
 from glasssheets.sheets import SHEET_NUMBERS, blank_of, first_wrong_sheet, read_sheets
+from glasssheets.shelves import lay_panes
 
 MOST_MARGIN = 65535
 MOST_BYTES = 131072
@@ -49,4 +50,27 @@ def judge(margin, cartoon, sheets, row):
     order = look(margin, cartoon, sheets)
     if order.refusal:
         return order.refusal
-    return [0] + judge_row(order.blanks, order.sheets, row)
+    return [0] + read_row(order.blanks, order.sheets, row).broken
+
+
+def lay(margin, cartoon, sheets):
+    """How many numbers the row of the layout laid by rule has, and the row."""
+    order = look(margin, cartoon, sheets)
+    if order.refusal:
+        return order.refusal
+    laying = lay_panes(order.blanks, order.sheets)
+    if laying.unlaid is not None:
+        return [-3, laying.unlaid]
+    return [0, len(laying.row)] + laying.row
+
+
+def cuts(margin, cartoon, sheets, row):
+    """How many numbers tell the cuts of a right layout, and they: five for each cut."""
+    order = look(margin, cartoon, sheets)
+    if order.refusal:
+        return order.refusal
+    reading = read_row(order.blanks, order.sheets, row)
+    if reading.broken:
+        return [-3, reading.broken[1]]
+    numbers = cuts_of(reading.nodes)
+    return [0, len(numbers)] + numbers

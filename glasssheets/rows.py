@@ -1,4 +1,6 @@
-"""Layouts' rows of numbers, judged node by node."""
+"""Layouts' rows of numbers, read and judged node by node."""
+
+from glasssheets.pieces import Piece, left_part, level_ends, lower_part, right_part, upper_part, upright_ends
 
 LEFT_OVER = 0
 PLACED = 1
@@ -9,27 +11,42 @@ LEVEL_CUT = 3
 NODE_NUMBERS = (1, 3, 2, 2)
 
 
-def judge_row(blanks, sheets, row):
-    """The first of the rules 1 to 7 that is broken and its place, or an empty list."""
+class Node:
+    """A node of a row: its sheet's number, its piece of that sheet, and its own numbers, without its parts'."""
+
+    def __init__(self, sheet_number, piece, numbers):
+        self.sheet_number = sheet_number
+        self.piece = piece
+        self.numbers = numbers
+
+
+class Reading:
+    """A row that was judged: broken is the rule and the place, or empty; then nodes are the row's, as they stand."""
+
+    def __init__(self, broken, nodes):
+        self.broken = broken
+        self.nodes = nodes
+
+
+def read_row(blanks, sheets, row):
     placed = {}
+    nodes = []
     start = 0
-    for sheet in sheets:
-        # The pieces whose nodes are still to come, the next one last; a piece is (width, height).
-        pieces = [(sheet.width, sheet.height)]
+    for k, sheet in enumerate(sheets):
+        # The pieces whose nodes are still to come, the next one last.
+        pieces = [Piece(0, 0, sheet.width, sheet.height)]
         while pieces:
             piece = pieces.pop()
             broken = judge_node(row, start, sheet, piece, blanks, placed)
             if broken:
-                return broken
-            if row[start] == PLACED:
-                placed[row[start + 1]] = True
-            pieces.extend(parts_of(piece, row, start))
-            start = start + NODE_NUMBERS[row[start]]
-    if start < len(row):
-        return [1, start]
-    if len(placed) < len(blanks):
-        return [7, len(row)]
-    return []
+                return Reading(broken, [])
+            node = Node(k, piece, row[start:start + NODE_NUMBERS[row[start]]])
+            nodes.append(node)
+            if node.numbers[0] == PLACED:
+                placed[node.numbers[1]] = True
+            pieces.extend(parts_of(node))
+            start = start + len(node.numbers)
+    return Reading(judge_end(row, start, blanks, placed), nodes)
 
 
 def judge_node(row, start, sheet, piece, blanks, placed):
@@ -57,7 +74,7 @@ def judge_form(row, start):
 
 def judge_cut(row, start, piece):
     """Rule 2: a cut parts its piece in two."""
-    length = piece[0] if row[start] == UPRIGHT_CUT else piece[1]
+    length = piece.width if row[start] == UPRIGHT_CUT else piece.height
     if row[start + 1] == 0 or row[start + 1] >= length:
         return [2, start + 1]
     return []
@@ -80,16 +97,34 @@ def judge_placed(row, start, sheet, piece, blanks, placed):
 
 def fits(blank, turned, piece):
     if turned == 1:
-        return blank.height <= piece[0] and blank.width <= piece[1]
-    return blank.width <= piece[0] and blank.height <= piece[1]
+        return blank.height <= piece.width and blank.width <= piece.height
+    return blank.width <= piece.width and blank.height <= piece.height
 
 
-def parts_of(piece, row, start):
-    """The two pieces that a cut leaves, the one whose node comes first last; none of a node without a cut."""
-    if row[start] == UPRIGHT_CUT:
-        cut = row[start + 1]
-        return [(piece[0] - cut, piece[1]), (cut, piece[1])]
-    if row[start] == LEVEL_CUT:
-        cut = row[start + 1]
-        return [(piece[0], piece[1] - cut), (piece[0], cut)]
+def judge_end(row, end, blanks, placed):
+    """What only the last node's end tells: rule 1, that no number comes behind it, and rule 7."""
+    if end < len(row):
+        return [1, end]
+    if len(placed) < len(blanks):
+        return [7, len(row)]
     return []
+
+
+def parts_of(node):
+    """The two pieces that a cut leaves, the one whose node comes first last; none of a node without a cut."""
+    if node.numbers[0] == UPRIGHT_CUT:
+        return [right_part(node.piece, node.numbers[1]), left_part(node.piece, node.numbers[1])]
+    if node.numbers[0] == LEVEL_CUT:
+        return [upper_part(node.piece, node.numbers[1]), lower_part(node.piece, node.numbers[1])]
+    return []
+
+
+def cuts_of(nodes):
+    """Five numbers for each cut among the nodes: its sheet's, its first end's x and y, its other end's."""
+    numbers = []
+    for node in nodes:
+        if node.numbers[0] == UPRIGHT_CUT:
+            numbers.extend([node.sheet_number] + upright_ends(node.piece, node.numbers[1]))
+        if node.numbers[0] == LEVEL_CUT:
+            numbers.extend([node.sheet_number] + level_ends(node.piece, node.numbers[1]))
+    return numbers

@@ -69,6 +69,32 @@ def row_cartoon(glasses):
     return pack(20 * many, 16, points, sorted(lines), marks)
 
 
+def boxes_cartoon(boxes, glasses):
+    """Panes side by side along the lower edge, as wide and high as the boxes tell, and behind them one pane more for
+    all the rest: of glass 9, as wide and high as the frame (rest_size)."""
+    width, height = rest_size(boxes)
+    points = {(0, 0), (width, 0), (0, height), (width, height)}
+    segments = [((0, height), (width, height))]
+    marks = [(width - 8, height - 1, 9)]
+    x = 0
+    for (wide, high), glass in zip(boxes, glasses):
+        points |= {(x, 0), (x, high), (x + wide, 0), (x + wide, high)}
+        segments.append(((x, high), (x + wide, high)))
+        marks.append((x + 1, 1, glass))
+        x += wide
+    floor = in_order(point for point in points if point[1] == 0)
+    segments += zip(floor, floor[1:])
+    for x, y in floor:
+        wall = in_order(point for point in points if point[0] == x)
+        segments += zip(wall, wall[1:])
+    return pack_places(width, height, points, segments, marks)
+
+
+def rest_size(boxes):
+    """The width and height of the pane around the boxes, which is the frame's: higher than any box."""
+    return sum(wide for wide, high in boxes) + 16, max([high for wide, high in boxes] + [12]) + 4
+
+
 def grid_cartoon(columns, rows, extra):
     """columns by rows panes of 10 by 10, with so many more points in the middles of lines; all of glass 1."""
     points = [(10 * x, 10 * y) for y in range(rows + 1) for x in range(columns + 1)]

@@ -1,7 +1,7 @@
 """Cartoons, sheets and rows made by chance from a seeded source: right ones, and ones that are wrong in some way."""
 
-from build import in_order, pack, put
-from reference import Strips, cross, on, parted
+from build import boxes_cartoon, grid_cartoon, in_order, pack, put, rest_size, row_cartoon, run_cartoon
+from reference import Strips, cross, judge_bytes, on, parted
 
 
 def chance_points(source, width, height):
@@ -109,6 +109,15 @@ def chance_cartoon(source):
     return data
 
 
+def right_cartoons(source, many):
+    cartoons = [run_cartoon(), row_cartoon([0, 1, 0]), row_cartoon([2]), grid_cartoon(2, 2, 0)]
+    while len(cartoons) < many:
+        data = chance_cartoon(source)
+        if judge_bytes(data)[0] == 0:
+            cartoons.append(data)
+    return cartoons
+
+
 def chance_sheets(source, panes, margin):
     sheets = []
     for _ in range(source.randrange(1, 4)):
@@ -146,10 +155,8 @@ def chance_node(source, panes, margin, sheet, width, height, waiting, depth):
     if depth < 3 and source.randrange(3) == 0 and min(width, height) > 1:
         kind = source.randrange(2, 4)
         cut = source.randrange(1, width if kind == 2 else height)
-        first = (cut, height) if kind == 2 else (width, cut)
-        second = (width - cut, height) if kind == 2 else (width, height - cut)
         nodes = [chance_node(source, panes, margin, sheet, wide, high, waiting, depth + 1)
-                 for wide, high in (first, second)]
+                 for wide, high in parts(kind, cut, width, height)]
         return [kind, cut] + nodes[0] + nodes[1]
     return [0]
 
@@ -164,3 +171,56 @@ def trimmed(source, panes, margin, sheet, width, height, waiting, blank, node):
         above = chance_node(source, panes, margin, sheet, width, height - blank[1], waiting, 0)
         return [3, blank[1]] + node + above
     return node
+
+
+def chance_boxes(source):
+    """A cartoon of boxes of few sizes, so that same heights and same blanks are frequent; what its panes are (glass,
+    width, height); and sheets, not many more than the panes need, with one for the pane around the boxes."""
+    many, glasses = source.randrange(1, 9), source.randrange(1, 3)
+    boxes = [(source.randrange(2, 9), source.randrange(2, 9)) for _ in range(many)]
+    marked = [source.randrange(glasses) for _ in boxes]
+    width, height = rest_size(boxes)
+    panes = [(glass,) + box for glass, box in zip(marked, boxes)] + [(9, width, height)]
+    sheets = [chance_sheet(source, glasses) for _ in range(source.randrange(2, 7))]
+    sheets.insert(source.randrange(len(sheets) + 1), [9, width + 4, height + 4, source.randrange(2)])
+    return boxes_cartoon(boxes, marked), panes, [number for sheet in sheets for number in sheet]
+
+
+def chance_sheet(source, glasses):
+    return [source.randrange(glasses), source.randrange(4, 24), source.randrange(4, 24), source.randrange(2)]
+
+
+def cut_up(source, sheets, row):
+    """A right layout's row with cuts by chance in what's left over."""
+    numbers = list(row)
+    cut = []
+    for k in range(0, len(sheets), 4):
+        cut += cut_up_node(source, numbers, sheets[k + 1], sheets[k + 2])
+    return cut
+
+
+def cut_up_node(source, numbers, width, height):
+    kind = numbers.pop(0)
+    if kind == 0:
+        return chance_cuts(source, width, height, 4)
+    if kind == 1:
+        return [kind, numbers.pop(0), numbers.pop(0)]
+    cut = numbers.pop(0)
+    first, second = parts(kind, cut, width, height)
+    return [kind, cut] + cut_up_node(source, numbers, *first) + cut_up_node(source, numbers, *second)
+
+
+def parts(kind, cut, width, height):
+    if kind == 2:
+        return (cut, height), (width - cut, height)
+    return (width, cut), (width, height - cut)
+
+
+def chance_cuts(source, width, height, depth):
+    kind = source.randrange(2, 4)
+    length = width if kind == 2 else height
+    if depth == 0 or length == 1 or source.randrange(3) == 0:
+        return [0]
+    cut = source.randrange(1, length)
+    first, second = parts(kind, cut, width, height)
+    return [kind, cut] + chance_cuts(source, *first, depth - 1) + chance_cuts(source, *second, depth - 1)

@@ -251,17 +251,22 @@ def read_blank(pane_number, turned_number, sheet, width, height, blanks, used):
 
 
 def lay(panes, margin, sheets):
-    """The row of the layout laid by rule, or None if a pane can't be laid."""
+    """What's told of the layout laid by rule: [0, how many, the row], or [-3, pane] if one can't be laid."""
     blanks = [(glass, width + 2 * margin, height + 2 * margin) for glass, width, height in panes]
     stock = [sheets[k:k + 4] for k in range(0, len(sheets), 4)]
     shelves = [[] for sheet in stock]
-    for pane in sorted(range(len(blanks)), key=lambda k: (-blanks[k][2], -blanks[k][1], k)):
+    for pane in order(panes):
         if not lay_pane(pane, blanks[pane], stock, shelves):
-            return None
+            return [-3, pane]
     row = []
     for sheet, pile in zip(stock, shelves):
         row += pile_node(sheet[1], sheet[2], pile)
-    return row
+    return [0, len(row)] + row
+
+
+def order(panes):
+    """The panes' numbers in the order in which they're laid; the margin, which all have, changes nothing of it."""
+    return sorted(range(len(panes)), key=lambda k: (-panes[k][2], -panes[k][1], k))
 
 
 def ways(sheet, blank):
@@ -306,3 +311,47 @@ def shelf_node(width, height, laid):
     if wide == width:
         return node
     return [2, wide] + node + shelf_node(width - wide, height, laid[1:])
+
+
+def nodes(sheets, row):
+    """Of a right layout each node in the row's order: its sheet's number, its piece's corners (left, lower, right,
+    upper), and its own numbers."""
+    numbers = list(row)
+    found = []
+    for k in range(0, len(sheets), 4):
+        find_nodes(numbers, k // 4, (0, 0, sheets[k + 1], sheets[k + 2]), found)
+    return found
+
+
+def find_nodes(numbers, sheet, corners, found):
+    left, lower, right, upper = corners
+    own = [numbers.pop(0)]
+    own += [numbers.pop(0) for _ in range((0, 2, 1, 1)[own[0]])]
+    found.append((sheet, corners, own))
+    if own[0] == 2:
+        find_nodes(numbers, sheet, (left, lower, left + own[1], upper), found)
+        find_nodes(numbers, sheet, (left + own[1], lower, right, upper), found)
+    if own[0] == 3:
+        find_nodes(numbers, sheet, (left, lower, right, lower + own[1]), found)
+        find_nodes(numbers, sheet, (left, lower + own[1], right, upper), found)
+
+
+def cuts(sheets, row):
+    """What's told of the cuts of a right layout."""
+    told = []
+    for sheet, (left, lower, right, upper), own in nodes(sheets, row):
+        if own[0] == 2:
+            told += [sheet, left + own[1], lower, left + own[1], upper]
+        if own[0] == 3:
+            told += [sheet, left, lower + own[1], right, lower + own[1]]
+    return [0, len(told)] + told
+
+
+def places(sheets, row):
+    """Of a right layout each pane's sheet, its piece's lower left corner, and turned."""
+    return {own[1]: (sheet, corners[:2], own[2]) for sheet, corners, own in nodes(sheets, row) if own[0] == 1}
+
+
+def pieces(sheets, row):
+    """Of a right layout the pieces that aren't cut any more, with their sheets' numbers."""
+    return sorted((sheet, corners) for sheet, corners, own in nodes(sheets, row) if own[0] < 2)

@@ -2,7 +2,7 @@
 
 import unittest
 
-from build import RUN_ROW, RUN_SHEETS, frame_cartoon, put, run_cartoon
+from build import RUN_ROW, RUN_SHEETS, frame_cartoon, grid_cartoon, put, run_cartoon
 from glasssheets import layouts
 
 
@@ -35,6 +35,10 @@ JUDGE_CALLS = [
     (0, frame_cartoon(), [3, 20, 16, 0], [1, 0, 0]),
     (0, [], [], []),
 ]
+LAY_CALLS = [handed[:3] for handed in JUDGE_CALLS] + [
+    (1, run_cartoon(), RUN_SHEETS[:7] + [0] + RUN_SHEETS[8:]),
+    (0, grid_cartoon(3, 3, 2), [1, 25, 12, 1, 1, 12, 40, 0, 1, 30, 30, 1]),
+]
 
 
 def copied(handed):
@@ -51,6 +55,9 @@ class Calls(unittest.TestCase):
             yield layouts.blank, handed
         for handed in JUDGE_CALLS:
             yield layouts.judge, handed
+            yield layouts.cuts, handed
+        for handed in LAY_CALLS:
+            yield layouts.lay, handed
 
     def test_what_is_handed_in_stays(self):
         for call, handed in self.each():
@@ -84,6 +91,8 @@ class Calls(unittest.TestCase):
     def test_arguments_by_name(self):
         self.assertEqual(layouts.blank(margin=1, i=0, cartoon=run_cartoon()), [0, 32, 12])
         self.assertEqual(layouts.judge(margin=1, cartoon=run_cartoon(), sheets=RUN_SHEETS, row=RUN_ROW), [0])
+        self.assertEqual(layouts.lay(margin=1, cartoon=run_cartoon(), sheets=RUN_SHEETS), [0, 18] + RUN_ROW)
+        self.assertEqual(layouts.cuts(margin=1, cartoon=run_cartoon(), sheets=RUN_SHEETS, row=RUN_ROW)[:2], [0, 15])
 
 
 if __name__ == "__main__":

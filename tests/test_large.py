@@ -5,7 +5,7 @@ import time
 import unittest
 
 from build import frame_cartoon, grid_cartoon, pack, pack_places
-from glasssheets.layouts import blank, judge
+from glasssheets.layouts import blank, cuts, judge, lay
 
 SECONDS = 5
 CALLS = 30
@@ -55,6 +55,14 @@ class LargeCartoons(LargeTest):
         self.assertEqual(self.soon(judge, 0, data, sheets, row), [0])
         self.assertEqual(self.soon(judge, 0, data, [1, 10 * 150 + 49] + sheets[2:], row), [0, 6, 896])
         self.assertEqual(self.soon(judge, 1, data, sheets, row), [0, 6, 3])
+        due = []
+        for pane in range(149):
+            x = 10 * (pane + 1) + min(pane, 50)
+            due += [0, x, 0, x, 10]
+            if pane < 50:
+                due += [0, x + 1, 0, x + 1, 10]
+        self.assertEqual(self.soon(cuts, 0, data, sheets, row), [0, len(due)] + due)
+        self.assertEqual(self.soon(cuts, 1, data, sheets, row), [-3, 3])
 
     def test_grid_without_one_mark(self):
         data = grid_cartoon(15, 10, 24)
@@ -87,6 +95,60 @@ class LargeCartoons(LargeTest):
         self.assertEqual(self.soon(blank, 0, 0, data), [-5, 7, 20 + 8 * 150 + 4])
 
 
+class LargeLayings(LargeTest):
+    """150 blanks of 10 by 10, where no others are told."""
+
+    def setUp(self):
+        self.data = grid_cartoon(15, 10, 24)
+
+    def assert_laid(self, sheets, row):
+        self.assertEqual(self.soon(lay, 0, self.data, sheets), [0, len(row)] + row)
+        self.assertEqual(self.soon(judge, 0, self.data, sheets, row), [0])
+        self.assertEqual(self.soon(cuts, 0, self.data, sheets, row)[0], 0)
+
+    def test_a_sheet_for_each(self):
+        row = []
+        for pane in range(150):
+            row += [1, pane, 0]
+        self.assert_laid([1, 10, 10, 1] * 1024, row + [0] * 874)
+
+    def test_last_of_1024_sheets(self):
+        row = [0] * 874
+        for pane in range(150):
+            row += [2, 10, 1, pane, 0, 0]
+        self.assert_laid([1, 9, 20, 1] * 874 + [1, 19, 10, 1] * 150, row)
+
+    def test_1024_sheets_too_small_by_one(self):
+        self.assertEqual(self.soon(lay, 0, self.data, [1, 9, 10, 1] * 1024), [-3, 0])
+        self.assertEqual(self.soon(lay, 0, self.data, [1, 10, 10, 1] * 149 + [1, 9, 10, 1] * 875), [-3, 149])
+
+    def test_one_shelf(self):
+        row = []
+        for pane in range(150):
+            row += [2, 10, 1, pane, 0]
+        self.assert_laid([1, 1501, 10, 1] + [1, 1500, 10, 1] * 1023, row + [0] + [0] * 1023)
+
+    def test_150_shelves(self):
+        row = []
+        for pane in range(150):
+            row += [3, 10, 1, pane, 0]
+        self.assert_laid([1, 10, 1501, 1] + [2, 1500, 1500, 1] * 1023, row + [0] + [0] * 1023)
+
+    def test_panes_of_a_fan(self):
+        # Panes between lines from one point: 600 wide, 4, 8, .. 592 high, and the last one 592 as well.
+        left = [(0, 4 * y) for y in range(149)]
+        hub, top = (600, 0), (600, 592)
+        segments = list(zip(left, left[1:])) + [(hub, top), (left[-1], top)] + [(hub, point) for point in left]
+        marks = [(1, 4 * y + 2, 1) for y in range(148)] + [(599, 591, 1)]
+        self.data = pack_places(600, 592, left + [hub, top], segments, marks)
+        # Two fill a sheet each; of the others the lower ones fill what the higher leave; one has none of its height.
+        row = [1, 147, 0, 1, 148, 0]
+        for pane in range(146, 73, -1):
+            row += [3, 4 * (pane + 1), 1, pane, 0, 1, 146 - pane, 0]
+        row += [3, 296, 1, 73, 0, 0]
+        self.assert_laid([1, 600, 592, 0] * 1024, row + [0] * (1024 - 76))
+
+
 class DeepRows(LargeTest):
     def test_parts_to_the_left(self):
         row = []
@@ -97,6 +159,9 @@ class DeepRows(LargeTest):
         self.assertEqual(self.soon(judge, 0, frame_cartoon(), [3, 1000, 50, 0], row), [0])
         self.assertEqual(self.soon(judge, 0, frame_cartoon(), [3, 999, 50, 0], row), [0, 2, 1])
         self.assertEqual(self.soon(judge, 0, frame_cartoon(), [3, 1000, 50, 0], row[:-1]), [0, 1, 899])
+        due = [number for x in range(999, 700, -1) for number in (0, x, 0, x, 50)]
+        self.assertEqual(self.soon(cuts, 0, frame_cartoon(), [3, 1000, 50, 0], row), [0, 5 * 299] + due)
+        self.assertEqual(self.soon(cuts, 0, frame_cartoon(), [3, 1000, 50, 0], row[:-1]), [-3, 899])
 
     def test_parts_above(self):
         row = [3, 1, 0] * 299 + [1, 0, 0]
@@ -104,6 +169,8 @@ class DeepRows(LargeTest):
         self.assertEqual(self.soon(judge, 0, frame_cartoon(), [3, 50, 299 + 16, 0], row), [0])
         self.assertEqual(self.soon(judge, 0, frame_cartoon(), [3, 50, 299 + 15, 0], row), [0, 6, 898])
         self.assertEqual(self.soon(judge, 0, frame_cartoon(), [3, 50, 298, 0], row), [0, 2, 3 * 297 + 1])
+        due = [number for y in range(1, 300) for number in (0, 0, y, 50, y)]
+        self.assertEqual(self.soon(cuts, 0, frame_cartoon(), [3, 50, 299 + 16, 0], row), [0, 5 * 299] + due)
 
     def test_cuts_alone(self):
         row = []
@@ -111,6 +178,7 @@ class DeepRows(LargeTest):
             row += [3, cut]
         self.assertEqual(len(row), 900)
         self.assertEqual(self.soon(judge, 0, frame_cartoon(), [3, 50, 1000, 0], row), [0, 1, 900])
+        self.assertEqual(self.soon(cuts, 0, frame_cartoon(), [3, 50, 1000, 0], row), [-3, 900])
 
     def test_upright_and_level_in_turn(self):
         row = []
@@ -119,6 +187,18 @@ class DeepRows(LargeTest):
         row += [1, 0, 1] + [0] * 298
         self.assertEqual(len(row), 897)
         self.assertEqual(self.soon(judge, 0, frame_cartoon(), [3, 1000, 1000, 1], row), [0])
+        due = []
+        for k in range(149):
+            due += [0, 999 - k, 0, 999 - k, 1000 - k, 0, 0, 999 - k, 999 - k, 999 - k]
+        self.assertEqual(self.soon(cuts, 0, frame_cartoon(), [3, 1000, 1000, 1], row), [0, len(due)] + due)
+
+    def test_parts_to_the_right_and_above_in_turn(self):
+        row = [2, 2, 0, 3, 1, 0] * 149 + [1, 0, 0]
+        self.assertEqual(len(row), 897)
+        due = []
+        for k in range(149):
+            due += [0, 2 * k + 2, k, 2 * k + 2, 1000, 0, 2 * k + 2, k + 1, 1000, k + 1]
+        self.assertEqual(self.soon(cuts, 0, frame_cartoon(), [3, 1000, 1000, 0], row), [0, len(due)] + due)
 
 
 if __name__ == "__main__":

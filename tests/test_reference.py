@@ -1,21 +1,11 @@
-"""The program beside a second reading of the document, over many inputs made by chance from fixed seeds."""
+"""blank and judge beside a second reading of the document, over many inputs made by chance from fixed seeds."""
 
 import random
 import unittest
 
-from build import RUN_ROW, RUN_SHEETS, grid_cartoon, row_cartoon, run_cartoon
-from chance import chance_cartoon, chance_row, chance_sheets
+from chance import chance_cartoon, chance_row, chance_sheets, right_cartoons
 from glasssheets.layouts import blank, judge
-from reference import judge_bytes, judge_layout, lay
-
-
-def right_cartoons(source, many):
-    cartoons = [run_cartoon(), row_cartoon([0, 1, 0]), row_cartoon([2]), grid_cartoon(2, 2, 0)]
-    while len(cartoons) < many:
-        data = chance_cartoon(source)
-        if judge_bytes(data)[0] == 0:
-            cartoons.append(data)
-    return cartoons
+from reference import judge_bytes, judge_layout
 
 
 class CartoonsByChance(unittest.TestCase):
@@ -53,32 +43,6 @@ class RowsByChance(unittest.TestCase):
                 with self.subTest(data=data, margin=margin, sheets=sheets, row=row):
                     self.assertEqual(judge(margin, data, sheets, row), due)
         self.assertEqual(sorted(rules), [(0,), (0, 1), (0, 2), (0, 3), (0, 4), (0, 5), (0, 6), (0, 7)])
-
-
-class LaidByRule(unittest.TestCase):
-    def test_reference_lays_the_run(self):
-        panes = judge_bytes(run_cartoon())[2]
-        self.assertEqual(lay(panes, 1, RUN_SHEETS), RUN_ROW)
-
-    def test_what_is_laid_is_right_and_stays_so_with_a_smaller_margin(self):
-        source = random.Random(22)
-        laid = 0
-        for data in right_cartoons(source, 14):
-            panes = judge_bytes(data)[2]
-            for _ in range(20):
-                margin = source.randrange(1, 4)
-                sheets = []
-                for glass in sorted(set(pane[0] for pane in panes)):
-                    for _ in range(2):
-                        sheets += [glass, source.randrange(20, 90), source.randrange(20, 90), source.randrange(2)]
-                row = lay(panes, margin, sheets)
-                if row is None:
-                    continue
-                laid += 1
-                with self.subTest(data=data, margin=margin, sheets=sheets, row=row):
-                    self.assertEqual(judge(margin, data, sheets, row), [0])
-                    self.assertEqual(judge(margin - 1, data, sheets, row), [0])
-        self.assertGreater(laid, 50)
 
 
 if __name__ == "__main__":

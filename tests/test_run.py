@@ -3,7 +3,7 @@
 import unittest
 
 from build import RUN_ROW, RUN_SHEETS, run_cartoon
-from glasssheets.layouts import blank, judge
+from glasssheets.layouts import blank, cuts, judge, lay
 
 
 class Run(unittest.TestCase):
@@ -35,9 +35,19 @@ class Run(unittest.TestCase):
     def test_layout_is_not_right_with_a_greater_margin(self):
         self.assertEqual(judge(2, run_cartoon(), RUN_SHEETS, RUN_ROW), [0, 6, 5])
 
+    def test_layout_laid_by_rule(self):
+        self.assertEqual(lay(1, run_cartoon(), RUN_SHEETS),
+                         [0, 18, 3, 22, 2, 32, 1, 2, 0, 0, 0, 3, 32, 1, 0, 1, 0, 1, 1, 0])
+
+    def test_cuts(self):
+        self.assertEqual(cuts(1, run_cartoon(), RUN_SHEETS, RUN_ROW),
+                         [0, 15, 0, 0, 22, 40, 22, 0, 32, 0, 32, 22, 1, 0, 32, 12, 32])
+
     def test_sheet_1_not_turning(self):
         sheets = RUN_SHEETS[:7] + [0] + RUN_SHEETS[8:]
         self.assertEqual(judge(1, run_cartoon(), sheets, RUN_ROW), [0, 5, 13])
+        self.assertEqual(lay(1, run_cartoon(), sheets), [-3, 0])
+        self.assertEqual(cuts(1, run_cartoon(), sheets, RUN_ROW), [-3, 13])
 
 
 if __name__ == "__main__":
