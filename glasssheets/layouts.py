@@ -1,7 +1,8 @@
 """The calls. Each gives back a list: a refusal's numbers, the first below 0, or 0 and the answer behind it."""
 
 from glasssheets.cartoons import read_cartoon
-from glasssheets.rows import cuts_of, read_row
+from glasssheets.findings import areas_of, cuts_of, place_of
+from glasssheets.rows import read_row
 from glasssheets.sheets import SHEET_NUMBERS, blank_of, first_wrong_sheet, read_sheets
 from glasssheets.shelves import lay_panes
 
@@ -17,6 +18,14 @@ class Order:
         self.refusal = refusal
         self.blanks = blanks
         self.sheets = sheets
+
+
+class Layout:
+    """A layout that a call is about: if refusal is empty, the nodes of its row, which is right."""
+
+    def __init__(self, refusal, nodes):
+        self.refusal = refusal
+        self.nodes = nodes
 
 
 def look(margin, cartoon, sheet_numbers):
@@ -35,13 +44,29 @@ def look(margin, cartoon, sheet_numbers):
     return Order([], [blank_of(pane, margin) for pane in judged.panes], stock)
 
 
+def look_for_pane(margin, i, cartoon, sheet_numbers):
+    """The order, looked at for what all calls refuse and then for pane i."""
+    order = look(margin, cartoon, sheet_numbers)
+    if not order.refusal and i >= len(order.blanks):
+        return Order([-2], [], [])
+    return order
+
+
+def look_at_row(order, row):
+    """The layout that the row tells; what the order refuses comes before what the row breaks."""
+    if order.refusal:
+        return Layout(order.refusal, [])
+    reading = read_row(order.blanks, order.sheets, row)
+    if reading.broken:
+        return Layout([-3, reading.broken[1]], [])
+    return Layout([], reading.nodes)
+
+
 def blank(margin, i, cartoon):
     """The width and the height of pane i's blank."""
-    order = look(margin, cartoon, [])
+    order = look_for_pane(margin, i, cartoon, [])
     if order.refusal:
         return order.refusal
-    if i >= len(order.blanks):
-        return [-2]
     return [0, order.blanks[i].width, order.blanks[i].height]
 
 
@@ -66,11 +91,25 @@ def lay(margin, cartoon, sheets):
 
 def cuts(margin, cartoon, sheets, row):
     """How many numbers tell the cuts of a right layout, and they: five for each cut."""
-    order = look(margin, cartoon, sheets)
-    if order.refusal:
-        return order.refusal
-    reading = read_row(order.blanks, order.sheets, row)
-    if reading.broken:
-        return [-3, reading.broken[1]]
-    numbers = cuts_of(reading.nodes)
+    layout = look_at_row(look(margin, cartoon, sheets), row)
+    if layout.refusal:
+        return layout.refusal
+    numbers = cuts_of(layout.nodes)
     return [0, len(numbers)] + numbers
+
+
+def where(margin, i, cartoon, sheets, row):
+    """Where pane i lies in a right layout: six numbers."""
+    layout = look_at_row(look_for_pane(margin, i, cartoon, sheets), row)
+    if layout.refusal:
+        return layout.refusal
+    return [0] + place_of(layout.nodes, i)
+
+
+def left(margin, cartoon, sheets, row):
+    """Of a right layout what is left over of all sheets, and what all blanks cover."""
+    order = look(margin, cartoon, sheets)
+    layout = look_at_row(order, row)
+    if layout.refusal:
+        return layout.refusal
+    return [0] + areas_of(layout.nodes, order.blanks)

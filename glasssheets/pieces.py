@@ -1,4 +1,4 @@
-"""Pieces of a sheet, what cuts leave of them, and where on the sheet the cuts' ends lie."""
+"""Pieces of a sheet, what cuts leave of them, and where on the sheet their corners and the cuts' ends lie."""
 
 
 class Piece:
@@ -35,3 +35,13 @@ def upright_ends(piece, cut):
 def level_ends(piece, cut):
     """The x and y of a level cut's left end, and those of its right one."""
     return [piece.x, piece.y + cut, piece.x + piece.width, piece.y + cut]
+
+
+def corners_of(piece):
+    """The x and y of the piece's lower left corner, and those of its upper right one."""
+    return [piece.x, piece.y, piece.x + piece.width, piece.y + piece.height]
+
+
+def area_of(rectangle):
+    """The area of a piece or of a blank, which lying turned has the same."""
+    return rectangle.width * rectangle.height

@@ -1,6 +1,6 @@
 """Layouts' rows of numbers, read and judged node by node."""
 
-from glasssheets.pieces import Piece, left_part, level_ends, lower_part, right_part, upper_part, upright_ends
+from glasssheets.pieces import Piece, left_part, lower_part, right_part, upper_part
 
 LEFT_OVER = 0
 PLACED = 1
@@ -117,14 +117,3 @@ def parts_of(node):
     if node.numbers[0] == LEVEL_CUT:
         return [upper_part(node.piece, node.numbers[1]), lower_part(node.piece, node.numbers[1])]
     return []
-
-
-def cuts_of(nodes):
-    """Five numbers for each cut among the nodes: its sheet's, its first end's x and y, its other end's."""
-    numbers = []
-    for node in nodes:
-        if node.numbers[0] == UPRIGHT_CUT:
-            numbers.extend([node.sheet_number] + upright_ends(node.piece, node.numbers[1]))
-        if node.numbers[0] == LEVEL_CUT:
-            numbers.extend([node.sheet_number] + level_ends(node.piece, node.numbers[1]))
-    return numbers

@@ -174,16 +174,23 @@ def trimmed(source, panes, margin, sheet, width, height, waiting, blank, node):
 
 
 def chance_boxes(source):
-    """A cartoon of boxes of few sizes, so that same heights and same blanks are frequent; what its panes are (glass,
-    width, height); and sheets, not many more than the panes need, with one for the pane around the boxes."""
-    many, glasses = source.randrange(1, 9), source.randrange(1, 3)
-    boxes = [(source.randrange(2, 9), source.randrange(2, 9)) for _ in range(many)]
-    marked = [source.randrange(glasses) for _ in boxes]
-    width, height = rest_size(boxes)
-    panes = [(glass,) + box for glass, box in zip(marked, boxes)] + [(9, width, height)]
+    """A cartoon of boxes and its panes; and sheets, not many more than the panes need, with one for the pane around the
+    boxes."""
+    glasses = source.randrange(1, 3)
+    data, panes = box_panes(source, glasses)
+    width, height = panes[-1][1:]
     sheets = [chance_sheet(source, glasses) for _ in range(source.randrange(2, 7))]
     sheets.insert(source.randrange(len(sheets) + 1), [9, width + 4, height + 4, source.randrange(2)])
-    return boxes_cartoon(boxes, marked), panes, [number for sheet in sheets for number in sheet]
+    return data, panes, [number for sheet in sheets for number in sheet]
+
+
+def box_panes(source, glasses):
+    """A cartoon of boxes of few sizes, so that same heights and same blanks are frequent; and what its panes are (glass,
+    width, height), the one around the boxes the last."""
+    boxes = [(source.randrange(2, 9), source.randrange(2, 9)) for _ in range(source.randrange(1, 9))]
+    marked = [source.randrange(glasses) for _ in boxes]
+    panes = [(glass,) + box for glass, box in zip(marked, boxes)] + [(9,) + rest_size(boxes)]
+    return boxes_cartoon(boxes, marked), panes
 
 
 def chance_sheet(source, glasses):
@@ -224,3 +231,41 @@ def chance_cuts(source, width, height, depth):
     cut = source.randrange(1, length)
     first, second = parts(kind, cut, width, height)
     return [kind, cut] + chance_cuts(source, *first, depth - 1) + chance_cuts(source, *second, depth - 1)
+
+
+def chance_layout(source, panes, margin):
+    """Sheets and the row of a right layout on them: cut in all ways, with blanks turned or not, in pieces that they fill
+    and in pieces that they don't, and with sheets that have no pane."""
+    stock = [(glass, []) for glass in sorted(set(pane[0] for pane in panes)) * 2]
+    for pane, (glass, width, height) in enumerate(panes):
+        source.choice([group for mine, group in stock if mine == glass]).append((pane, width, height))
+    source.shuffle(stock)
+    sheets, row = [], []
+    for glass, group in stock:
+        turns = source.randrange(2)
+        node, width, height = chance_tree(source, group, margin, turns)
+        sheets += [glass, width + slack(source), height + slack(source), turns]
+        row += node
+    return sheets, row
+
+
+def chance_tree(source, group, margin, turns):
+    """A node with the group's panes, and the width and height that it needs: in a larger piece it's right as well."""
+    if not group and source.randrange(4):
+        return [0], source.randrange(1, 9), source.randrange(1, 9)
+    if len(group) == 1 and source.randrange(4):
+        pane, width, height = group[0]
+        turned = source.randrange(turns + 1)
+        across, up = ((width, height), (height, width))[turned]
+        return [1, pane, turned], across + 2 * margin + slack(source), up + 2 * margin + slack(source)
+    halves = [], []
+    for member in group:
+        source.choice(halves).append(member)
+    (first, width, height), (second, wide, high) = [chance_tree(source, half, margin, turns) for half in halves]
+    if source.randrange(2):
+        return [2, width] + first + second, width + wide, max(height, high)
+    return [3, height] + first + second, max(width, wide), height + high
+
+
+def slack(source):
+    return source.choice([0, 0, 0, 1, source.randrange(9)])

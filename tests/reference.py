@@ -347,6 +347,30 @@ def cuts(sheets, row):
     return [0, len(told)] + told
 
 
+def where(sheets, row, i):
+    """What's told of where a pane lies in a right layout."""
+    for sheet, corners, own in nodes(sheets, row):
+        if own[:2] == [1, i]:
+            return [0, sheet] + list(corners) + [own[2]]
+    raise ValueError("a layout without the pane")
+
+
+def left(panes, margin, sheets, row):
+    """What's told of a right layout's areas; what a blank doesn't cover of its piece: beside it, and above it."""
+    over = covered = 0
+    for sheet, (left_x, lower, right_x, upper), own in nodes(sheets, row):
+        across, up = right_x - left_x, upper - lower
+        if own[0] == 0:
+            over += across * up
+        if own[0] == 1:
+            wide, high = [length + 2 * margin for length in panes[own[1]][1:]]
+            covered += wide * high
+            if own[2]:
+                wide, high = high, wide
+            over += (across - wide) * up + wide * (up - high)
+    return [0, over, covered]
+
+
 def places(sheets, row):
     """Of a right layout each pane's sheet, its piece's lower left corner, and turned."""
     return {own[1]: (sheet, corners[:2], own[2]) for sheet, corners, own in nodes(sheets, row) if own[0] == 1}

@@ -56,6 +56,9 @@ class Calls(unittest.TestCase):
         for handed in JUDGE_CALLS:
             yield layouts.judge, handed
             yield layouts.cuts, handed
+            yield layouts.left, handed
+            for i in (0, 2, 3):
+                yield layouts.where, (handed[0], i) + handed[1:]
         for handed in LAY_CALLS:
             yield layouts.lay, handed
 
@@ -93,6 +96,9 @@ class Calls(unittest.TestCase):
         self.assertEqual(layouts.judge(margin=1, cartoon=run_cartoon(), sheets=RUN_SHEETS, row=RUN_ROW), [0])
         self.assertEqual(layouts.lay(margin=1, cartoon=run_cartoon(), sheets=RUN_SHEETS), [0, 18] + RUN_ROW)
         self.assertEqual(layouts.cuts(margin=1, cartoon=run_cartoon(), sheets=RUN_SHEETS, row=RUN_ROW)[:2], [0, 15])
+        self.assertEqual(layouts.where(margin=1, i=0, cartoon=run_cartoon(), sheets=RUN_SHEETS, row=RUN_ROW),
+                         [0, 1, 0, 0, 12, 32, 1])
+        self.assertEqual(layouts.left(margin=1, cartoon=run_cartoon(), sheets=RUN_SHEETS, row=RUN_ROW), [0, 712, 1352])
 
 
 if __name__ == "__main__":

@@ -1,11 +1,9 @@
-"""The cuts of right layouts, one by one with their ends on the sheet; and what's refused of layouts that aren't."""
+"""The cuts of right layouts, one by one with their ends on the sheet."""
 
 import unittest
 
-from build import RUN_ROW, RUN_SHEETS, frame_cartoon, row_cartoon, run_cartoon
+from build import frame_cartoon
 from glasssheets.layouts import cuts
-
-MOST = 4294967295
 
 
 class CutsTest(unittest.TestCase):
@@ -102,63 +100,6 @@ class NestedCuts(CutsTest):
         self.assertEqual(len(row), 900)
         self.assert_told(sheets, row, [(894, 3, 0, 3, 4)])
         self.assertEqual(cuts(0, frame_cartoon(), sheets, row[:-1]), [-3, 899])
-
-
-class WrongLayouts(unittest.TestCase):
-    """Panes 0, 1, 2 of glasses 1, 1, 2, whose blanks are 20 wide and 16 high."""
-
-    SHEETS = [1, 100, 50, 1, 2, 60, 40, 0]
-    RIGHT = [2, 30, 1, 0, 0, 3, 25, 1, 1, 1, 0, 1, 2, 0]
-
-    def assert_refused(self, row, place):
-        self.assertEqual(cuts(0, row_cartoon([1, 1, 2]), self.SHEETS, row), [-3, place])
-
-    def test_right(self):
-        self.assertEqual(cuts(0, row_cartoon([1, 1, 2]), self.SHEETS, self.RIGHT),
-                         [0, 10, 0, 30, 0, 30, 50, 0, 30, 25, 100, 25])
-
-    def test_rule_1(self):
-        for number in (4, MOST):
-            self.assert_refused([number] + self.RIGHT[1:], 0)
-            self.assert_refused(self.RIGHT[:2] + [number] + self.RIGHT[3:], 2)
-            self.assert_refused(self.RIGHT[:13] + [number], 13)
-        for many in range(len(self.RIGHT)):
-            self.assert_refused(self.RIGHT[:many], many)
-        self.assert_refused(self.RIGHT + [0], 14)
-        self.assert_refused(self.RIGHT + [2, 0], 14)
-
-    def test_rule_2(self):
-        for cut in (0, 100, MOST):
-            self.assert_refused([2, cut] + self.RIGHT[2:], 1)
-        for cut in (0, 50, MOST):
-            self.assert_refused(self.RIGHT[:6] + [cut] + self.RIGHT[7:], 6)
-
-    def test_rule_3(self):
-        for pane in (0, 3, MOST):
-            self.assert_refused(self.RIGHT[:8] + [pane] + self.RIGHT[9:], 8)
-
-    def test_rule_4(self):
-        self.assert_refused(self.RIGHT[:3] + [2] + self.RIGHT[4:], 3)
-
-    def test_rule_5(self):
-        self.assert_refused(self.RIGHT[:13] + [1], 13)
-
-    def test_rule_6(self):
-        self.assert_refused([2, 19] + self.RIGHT[2:], 3)
-        self.assert_refused(self.RIGHT[:6] + [19] + self.RIGHT[7:], 8)
-
-    def test_rule_7(self):
-        self.assert_refused(self.RIGHT[:11] + [0], 12)
-        self.assert_refused([0, 0], 2)
-
-    def test_no_sheets(self):
-        self.assertEqual(cuts(0, frame_cartoon(), [], []), [-3, 0])
-        self.assertEqual(cuts(0, frame_cartoon(), [], [0]), [-3, 0])
-
-    def test_the_document_s_run(self):
-        self.assertEqual(cuts(2, run_cartoon(), RUN_SHEETS, RUN_ROW), [-3, 5])
-        for many in range(18):
-            self.assertEqual(cuts(1, run_cartoon(), RUN_SHEETS, RUN_ROW[:many]), [-3, many])
 
 
 if __name__ == "__main__":

@@ -5,7 +5,7 @@ import time
 import unittest
 
 from build import frame_cartoon, grid_cartoon, pack, pack_places
-from glasssheets.layouts import blank, cuts, judge, lay
+from glasssheets.layouts import blank, cuts, judge, lay, left, where
 
 SECONDS = 5
 CALLS = 30
@@ -63,6 +63,23 @@ class LargeCartoons(LargeTest):
                 due += [0, x + 1, 0, x + 1, 10]
         self.assertEqual(self.soon(cuts, 0, data, sheets, row), [0, len(due)] + due)
         self.assertEqual(self.soon(cuts, 1, data, sheets, row), [-3, 3])
+        self.assertEqual(self.soon(where, 0, 0, data, sheets, row), [0, 0, 0, 0, 10, 10, 0])
+        self.assertEqual(self.soon(where, 0, 1, data, sheets, row), [0, 0, 11, 0, 21, 10, 0])
+        self.assertEqual(self.soon(where, 0, 149, data, sheets, row), [0, 0, 1540, 0, 1550, 10, 0])
+        self.assertEqual(self.soon(where, 1, 149, data, sheets, row), [-3, 3])
+        self.assertEqual(self.soon(where, 1, 150, data, sheets, row), [-2])
+        self.assertEqual(self.soon(left, 0, data, sheets, row), [0, 50 * 10 + 2, 15000])
+        self.assertEqual(self.soon(left, 1, data, sheets, row), [-3, 3])
+
+    def test_1024_sheets(self):
+        # More sheets than a row of 900 numbers has nodes for.
+        data = grid_cartoon(15, 10, 24)
+        row = [number for pane in range(150) for number in (1, pane, 0)] + [0] * 450
+        sheets = [1, 10, 10, 1] * 1024
+        self.assertEqual(self.soon(where, 0, 149, data, sheets, row), [-3, 900])
+        self.assertEqual(self.soon(left, 0, data, sheets, row), [-3, 900])
+        self.assertEqual(self.soon(where, 0, 149, data, sheets[:4 * 600], row), [0, 149, 0, 0, 10, 10, 0])
+        self.assertEqual(self.soon(left, 0, data, sheets[:4 * 600], row), [0, 45000, 15000])
 
     def test_grid_without_one_mark(self):
         data = grid_cartoon(15, 10, 24)
@@ -105,6 +122,9 @@ class LargeLayings(LargeTest):
         self.assertEqual(self.soon(lay, 0, self.data, sheets), [0, len(row)] + row)
         self.assertEqual(self.soon(judge, 0, self.data, sheets, row), [0])
         self.assertEqual(self.soon(cuts, 0, self.data, sheets, row)[0], 0)
+        self.assertEqual(self.soon(where, 0, 148, self.data, sheets, row)[0], 0)
+        areas = self.soon(left, 0, self.data, sheets, row)
+        self.assertEqual(areas[1] + areas[2], sum(sheets[k + 1] * sheets[k + 2] for k in range(0, len(sheets), 4)))
 
     def test_a_sheet_for_each(self):
         row = []
@@ -150,6 +170,11 @@ class LargeLayings(LargeTest):
 
 
 class DeepRows(LargeTest):
+    def assert_place(self, row, sheet, place):
+        """Where the one blank, of 20 by 16, lies on the one sheet, and what's left over of that."""
+        self.assertEqual(self.soon(where, 0, 0, frame_cartoon(), sheet, row), [0, 0] + place)
+        self.assertEqual(self.soon(left, 0, frame_cartoon(), sheet, row), [0, sheet[1] * sheet[2] - 320, 320])
+
     def test_parts_to_the_left(self):
         row = []
         for cut in range(999, 999 - 299, -1):
@@ -162,6 +187,9 @@ class DeepRows(LargeTest):
         due = [number for x in range(999, 700, -1) for number in (0, x, 0, x, 50)]
         self.assertEqual(self.soon(cuts, 0, frame_cartoon(), [3, 1000, 50, 0], row), [0, 5 * 299] + due)
         self.assertEqual(self.soon(cuts, 0, frame_cartoon(), [3, 1000, 50, 0], row[:-1]), [-3, 899])
+        self.assert_place(row, [3, 1000, 50, 0], [0, 0, 701, 50, 0])
+        self.assertEqual(self.soon(left, 0, frame_cartoon(), [3, 1000, 50, 0], row[:-1]), [-3, 899])
+        self.assertEqual(self.soon(where, 0, 0, frame_cartoon(), [3, 1000, 50, 0], row[:-1]), [-3, 899])
 
     def test_parts_above(self):
         row = [3, 1, 0] * 299 + [1, 0, 0]
@@ -171,6 +199,7 @@ class DeepRows(LargeTest):
         self.assertEqual(self.soon(judge, 0, frame_cartoon(), [3, 50, 298, 0], row), [0, 2, 3 * 297 + 1])
         due = [number for y in range(1, 300) for number in (0, 0, y, 50, y)]
         self.assertEqual(self.soon(cuts, 0, frame_cartoon(), [3, 50, 299 + 16, 0], row), [0, 5 * 299] + due)
+        self.assert_place(row, [3, 50, 299 + 16, 0], [0, 299, 50, 315, 0])
 
     def test_cuts_alone(self):
         row = []
@@ -179,6 +208,8 @@ class DeepRows(LargeTest):
         self.assertEqual(len(row), 900)
         self.assertEqual(self.soon(judge, 0, frame_cartoon(), [3, 50, 1000, 0], row), [0, 1, 900])
         self.assertEqual(self.soon(cuts, 0, frame_cartoon(), [3, 50, 1000, 0], row), [-3, 900])
+        self.assertEqual(self.soon(where, 0, 0, frame_cartoon(), [3, 50, 1000, 0], row), [-3, 900])
+        self.assertEqual(self.soon(left, 0, frame_cartoon(), [3, 50, 1000, 0], row), [-3, 900])
 
     def test_upright_and_level_in_turn(self):
         row = []
@@ -191,6 +222,7 @@ class DeepRows(LargeTest):
         for k in range(149):
             due += [0, 999 - k, 0, 999 - k, 1000 - k, 0, 0, 999 - k, 999 - k, 999 - k]
         self.assertEqual(self.soon(cuts, 0, frame_cartoon(), [3, 1000, 1000, 1], row), [0, len(due)] + due)
+        self.assert_place(row, [3, 1000, 1000, 1], [0, 0, 851, 851, 1])
 
     def test_parts_to_the_right_and_above_in_turn(self):
         row = [2, 2, 0, 3, 1, 0] * 149 + [1, 0, 0]
@@ -199,6 +231,7 @@ class DeepRows(LargeTest):
         for k in range(149):
             due += [0, 2 * k + 2, k, 2 * k + 2, 1000, 0, 2 * k + 2, k + 1, 1000, k + 1]
         self.assertEqual(self.soon(cuts, 0, frame_cartoon(), [3, 1000, 1000, 0], row), [0, len(due)] + due)
+        self.assert_place(row, [3, 1000, 1000, 0], [298, 149, 1000, 1000, 0])
 
 
 if __name__ == "__main__":

@@ -3,7 +3,7 @@
 import unittest
 
 from build import RUN_ROW, RUN_SHEETS, run_cartoon
-from glasssheets.layouts import blank, cuts, judge, lay
+from glasssheets.layouts import blank, cuts, judge, lay, left, where
 
 
 class Run(unittest.TestCase):
@@ -43,11 +43,25 @@ class Run(unittest.TestCase):
         self.assertEqual(cuts(1, run_cartoon(), RUN_SHEETS, RUN_ROW),
                          [0, 15, 0, 0, 22, 40, 22, 0, 32, 0, 32, 22, 1, 0, 32, 12, 32])
 
+    def test_where(self):
+        data = run_cartoon()
+        self.assertEqual(where(1, 0, data, RUN_SHEETS, RUN_ROW), [0, 1, 0, 0, 12, 32, 1])
+        self.assertEqual(where(1, 1, data, RUN_SHEETS, RUN_ROW), [0, 2, 0, 0, 12, 22, 0])
+        self.assertEqual(where(1, 2, data, RUN_SHEETS, RUN_ROW), [0, 0, 0, 0, 32, 22, 0])
+        self.assertEqual(where(1, 3, data, RUN_SHEETS, RUN_ROW), [-2])
+
+    def test_left(self):
+        self.assertEqual(left(1, run_cartoon(), RUN_SHEETS, RUN_ROW), [0, 712, 1352])
+        self.assertEqual(712 + 1352, 40 * 30 + 12 * 50 + 12 * 22)
+
     def test_sheet_1_not_turning(self):
         sheets = RUN_SHEETS[:7] + [0] + RUN_SHEETS[8:]
         self.assertEqual(judge(1, run_cartoon(), sheets, RUN_ROW), [0, 5, 13])
         self.assertEqual(lay(1, run_cartoon(), sheets), [-3, 0])
         self.assertEqual(cuts(1, run_cartoon(), sheets, RUN_ROW), [-3, 13])
+        self.assertEqual(left(1, run_cartoon(), sheets, RUN_ROW), [-3, 13])
+        for i in range(3):
+            self.assertEqual(where(1, i, run_cartoon(), sheets, RUN_ROW), [-3, 13])
 
 
 if __name__ == "__main__":
