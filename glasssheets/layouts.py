@@ -2,6 +2,7 @@
 
 from glasssheets.cartoons import read_cartoon
 from glasssheets.findings import areas_of, cuts_of, place_of
+from glasssheets.offcuts import tightest
 from glasssheets.rows import read_row
 from glasssheets.sheets import SHEET_NUMBERS, blank_of, first_wrong_sheet, read_sheets
 from glasssheets.shelves import lay_panes
@@ -9,6 +10,7 @@ from glasssheets.shelves import lay_panes
 MOST_MARGIN = 65535
 MOST_BYTES = 131072
 MOST_SHEETS = 1024
+MOST_OFFCUTS = 64
 
 
 class Order:
@@ -29,7 +31,7 @@ class Layout:
 
 
 def look(margin, cartoon, sheet_numbers):
-    """The order, looked at for what all calls refuse, in the order in which they refuse it."""
+    """The order, looked at for what all calls with a cartoon refuse, in the order in which they refuse it."""
     if margin > MOST_MARGIN:
         return Order([-1], [], [])
     if len(cartoon) > MOST_BYTES or len(sheet_numbers) > SHEET_NUMBERS * MOST_SHEETS:
@@ -45,7 +47,7 @@ def look(margin, cartoon, sheet_numbers):
 
 
 def look_for_pane(margin, i, cartoon, sheet_numbers):
-    """The order, looked at for what all calls refuse and then for pane i."""
+    """The order, looked at for what all calls with a cartoon refuse, and then for pane i."""
     order = look(margin, cartoon, sheet_numbers)
     if not order.refusal and i >= len(order.blanks):
         return Order([-2], [], [])
@@ -113,3 +115,10 @@ def left(margin, cartoon, sheets, row):
     if layout.refusal:
         return layout.refusal
     return [0] + areas_of(layout.nodes, order.blanks)
+
+
+def tight(width, height, widths, heights):
+    """The number of the tightest piece that is at least so wide and so high, or how many there are if none is."""
+    if len(widths) != len(heights) or len(widths) > MOST_OFFCUTS:
+        return [-1]
+    return [0, tightest(width, height, widths, heights)]

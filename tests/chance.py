@@ -1,7 +1,7 @@
 """Cartoons, sheets and rows made by chance from a seeded source: right ones, and ones that are wrong in some way."""
 
 from build import boxes_cartoon, grid_cartoon, in_order, pack, put, rest_size, row_cartoon, run_cartoon
-from reference import Strips, cross, judge_bytes, on, parted
+from reference import Strips, cross, judge_bytes, judge_layout, on, parted
 
 
 def chance_points(source, width, height):
@@ -143,6 +143,17 @@ def chance_row(source, panes, margin, sheets):
     return row
 
 
+def judged_rows(source):
+    """Cartoons, their panes, margins, sheets and rows, right ones and others, and what the reference judges of them."""
+    for data in right_cartoons(source, 12):
+        panes = judge_bytes(data)[2]
+        for _ in range(60):
+            margin = source.randrange(3)
+            sheets = chance_sheets(source, panes, margin)
+            row = chance_row(source, panes, margin, sheets)
+            yield data, panes, margin, sheets, row, judge_layout(panes, margin, sheets, row)
+
+
 def chance_node(source, panes, margin, sheet, width, height, waiting, depth):
     for pane in list(waiting):
         glass, wide, high = panes[pane][0], panes[pane][1] + 2 * margin, panes[pane][2] + 2 * margin
@@ -185,8 +196,8 @@ def chance_boxes(source):
 
 
 def box_panes(source, glasses):
-    """A cartoon of boxes of few sizes, so that same heights and same blanks are frequent; and what its panes are (glass,
-    width, height), the one around the boxes the last."""
+    """A cartoon of boxes of few sizes, so that same heights and same blanks are frequent; and what its panes are
+    (glass, width, height), the one around the boxes the last."""
     boxes = [(source.randrange(2, 9), source.randrange(2, 9)) for _ in range(source.randrange(1, 9))]
     marked = [source.randrange(glasses) for _ in boxes]
     panes = [(glass,) + box for glass, box in zip(marked, boxes)] + [(9,) + rest_size(boxes)]
@@ -234,8 +245,8 @@ def chance_cuts(source, width, height, depth):
 
 
 def chance_layout(source, panes, margin):
-    """Sheets and the row of a right layout on them: cut in all ways, with blanks turned or not, in pieces that they fill
-    and in pieces that they don't, and with sheets that have no pane."""
+    """Sheets and the row of a right layout on them: cut in all ways, with blanks turned or not, in pieces that they
+    fill and in pieces that they don't, and with sheets that have no pane."""
     stock = [(glass, []) for glass in sorted(set(pane[0] for pane in panes)) * 2]
     for pane, (glass, width, height) in enumerate(panes):
         source.choice([group for mine, group in stock if mine == glass]).append((pane, width, height))

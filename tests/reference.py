@@ -379,3 +379,18 @@ def places(sheets, row):
 def pieces(sheets, row):
     """Of a right layout the pieces that aren't cut any more, with their sheets' numbers."""
     return sorted((sheet, corners) for sheet, corners, own in nodes(sheets, row) if own[0] < 2)
+
+
+def tight(width, height, widths, heights):
+    """What's told of the tightest piece: each of them asked whether one that goes as well is before it."""
+    if len(widths) != len(heights) or max(len(widths), len(heights)) > 64:
+        return [-1]
+    chosen = len(widths)
+    for k in range(len(widths)):
+        if widths[k] < width or heights[k] < height:
+            continue
+        if chosen == len(widths) or heights[k] < heights[chosen]:
+            chosen = k
+        elif heights[k] == heights[chosen] and widths[k] < widths[chosen]:
+            chosen = k
+    return [0, chosen]

@@ -145,6 +145,21 @@ class OddShapes(unittest.TestCase):
         ])
         self.assertEqual([blank(0, i, data) for i in range(3)], [[0, 20, 20], [0, 10, 20], [0, 20, 11]])
 
+    def test_the_same_turned_by_a_half(self):
+        # From (8, 7) over (10, 10): (11, 11) comes first, and (13, 14), hardly more to the left, behind it.
+        ways = [[(10, 10), (11, 11), (20, 0)], [(10, 10), (8, 7), (0, 0)], [(10, 10), (13, 14), (20, 20)]]
+        points = set(sum(ways, [(0, 20)]))
+        segments = ring([(0, 0), (20, 0), (20, 20), (0, 20)])
+        for way in ways:
+            segments += list(zip(way, way[1:]))
+        data = pack_places(20, 20, points, segments, [(5, 15), (18, 10), (10, 2)])
+        self.assertEqual(corners(data), [
+            [(0, 0), (20, 0), (11, 11), (10, 10), (8, 7)],
+            [(20, 0), (20, 20), (13, 14), (10, 10), (11, 11)],
+            [(0, 0), (8, 7), (10, 10), (13, 14), (20, 20), (0, 20)],
+        ])
+        self.assertEqual([blank(0, i, data) for i in range(3)], [[0, 20, 11], [0, 10, 20], [0, 20, 20]])
+
     def test_widest_cartoon(self):
         most = 1048575
         points = [(0, 0), (most, 0), (0, most), (most, most)]

@@ -1,5 +1,5 @@
-"""where and left beside a second reading of the document, and the promises 2 and 3, over many layouts made by chance from
-fixed seeds."""
+"""where and left beside a second reading of the document, and the promises 2 and 3, over many layouts made by chance
+from fixed seeds."""
 
 import itertools
 import random
@@ -7,7 +7,7 @@ import unittest
 
 import reference
 from build import RUN_ROW, RUN_SHEETS, run_cartoon
-from chance import box_panes, chance_boxes, chance_layout, chance_row, chance_sheets, cut_up, right_cartoons
+from chance import box_panes, chance_boxes, chance_layout, cut_up, judged_rows, right_cartoons
 from glasssheets.layouts import blank, cuts, judge, lay, left, look, look_at_row, where
 
 
@@ -137,23 +137,17 @@ class Rows(PlacesTest):
     def test_right_ones_and_others(self):
         source = random.Random(21)
         right, rules = 0, set()
-        for data in right_cartoons(source, 12):
-            panes = reference.judge_bytes(data)[2]
-            for _ in range(60):
-                margin = source.randrange(3)
-                sheets = chance_sheets(source, panes, margin)
-                row = chance_row(source, panes, margin, sheets)
-                due = reference.judge_layout(panes, margin, sheets, row)
-                if due == [0]:
-                    right += 1
-                    self.assert_right(data, panes, margin, sheets, row)
-                    continue
-                rules.add(due[1])
-                with self.subTest(data=data, margin=margin, sheets=sheets, row=row):
-                    self.assertEqual(left(margin, data, sheets, row), [-3, due[2]])
-                    for i in range(len(panes)):
-                        self.assertEqual(where(margin, i, data, sheets, row), [-3, due[2]])
-                    self.assertEqual(where(margin, len(panes), data, sheets, row), [-2])
+        for data, panes, margin, sheets, row, due in judged_rows(source):
+            if due == [0]:
+                right += 1
+                self.assert_right(data, panes, margin, sheets, row)
+                continue
+            rules.add(due[1])
+            with self.subTest(data=data, margin=margin, sheets=sheets, row=row):
+                self.assertEqual(left(margin, data, sheets, row), [-3, due[2]])
+                for i in range(len(panes)):
+                    self.assertEqual(where(margin, i, data, sheets, row), [-3, due[2]])
+                self.assertEqual(where(margin, len(panes), data, sheets, row), [-2])
         self.assertGreater(right, 15)
         self.assertEqual(rules, {1, 2, 3, 4, 5, 6, 7})
 

@@ -3,9 +3,9 @@
 import random
 import unittest
 
-from chance import chance_cartoon, chance_row, chance_sheets, right_cartoons
+from chance import chance_cartoon, judged_rows
 from glasssheets.layouts import blank, judge
-from reference import judge_bytes, judge_layout
+from reference import judge_bytes
 
 
 class CartoonsByChance(unittest.TestCase):
@@ -32,16 +32,10 @@ class RowsByChance(unittest.TestCase):
     def test_rows(self):
         source = random.Random(21)
         rules = {}
-        for data in right_cartoons(source, 12):
-            panes = judge_bytes(data)[2]
-            for _ in range(60):
-                margin = source.randrange(3)
-                sheets = chance_sheets(source, panes, margin)
-                row = chance_row(source, panes, margin, sheets)
-                due = judge_layout(panes, margin, sheets, row)
-                rules[tuple(due[:2])] = True
-                with self.subTest(data=data, margin=margin, sheets=sheets, row=row):
-                    self.assertEqual(judge(margin, data, sheets, row), due)
+        for data, panes, margin, sheets, row, due in judged_rows(source):
+            rules[tuple(due[:2])] = True
+            with self.subTest(data=data, margin=margin, sheets=sheets, row=row):
+                self.assertEqual(judge(margin, data, sheets, row), due)
         self.assertEqual(sorted(rules), [(0,), (0, 1), (0, 2), (0, 3), (0, 4), (0, 5), (0, 6), (0, 7)])
 
 

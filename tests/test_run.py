@@ -3,7 +3,7 @@
 import unittest
 
 from build import RUN_ROW, RUN_SHEETS, run_cartoon
-from glasssheets.layouts import blank, cuts, judge, lay, left, where
+from glasssheets.layouts import blank, cuts, judge, lay, left, tight, where
 
 
 class Run(unittest.TestCase):
@@ -53,6 +53,27 @@ class Run(unittest.TestCase):
     def test_left(self):
         self.assertEqual(left(1, run_cartoon(), RUN_SHEETS, RUN_ROW), [0, 712, 1352])
         self.assertEqual(712 + 1352, 40 * 30 + 12 * 50 + 12 * 22)
+
+    def test_tight_among_the_sheets(self):
+        widths, heights = RUN_SHEETS[1::4], RUN_SHEETS[2::4]
+        self.assertEqual((widths, heights), ([40, 12, 12], [30, 50, 22]))
+        self.assertEqual(tight(32, 22, widths, heights), [0, 0])
+        self.assertEqual(tight(12, 22, widths, heights), [0, 2])
+        self.assertEqual(tight(32, 12, widths, heights), [0, 0])
+        self.assertEqual(tight(12, 32, widths, heights), [0, 1])
+        self.assertEqual(tight(32, 32, widths, heights), [0, 3])
+
+    def test_all_from_bytes_on(self):
+        data = run_cartoon()
+        told = lay(1, data, RUN_SHEETS)
+        row = told[2:]
+        self.assertEqual(told, [0, 18] + RUN_ROW)
+        self.assertEqual(judge(1, data, RUN_SHEETS, row), [0])
+        self.assertEqual([where(1, i, data, RUN_SHEETS, row)[1] for i in range(3)], [1, 2, 0])
+        self.assertEqual(left(1, data, RUN_SHEETS, row), [0, 712, 1352])
+        self.assertEqual(cuts(1, data, RUN_SHEETS, row)[1], 15)
+        areas = [width * height for zero, width, height in [blank(1, i, data) for i in range(3)]]
+        self.assertEqual(areas, [384, 264, 704])
 
     def test_sheet_1_not_turning(self):
         sheets = RUN_SHEETS[:7] + [0] + RUN_SHEETS[8:]

@@ -1,5 +1,5 @@
-"""What cuts, where and left refuse of layouts that aren't right: -3 and the place, for each of the rules 1 to 7; but where
-refuses a pane that isn't there before it."""
+"""What cuts, where and left refuse of layouts that aren't right: -3 and the place, for each of the rules 1 to 7; but
+where refuses a pane that isn't there before it."""
 
 import unittest
 
